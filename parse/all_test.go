@@ -100,6 +100,7 @@ func TestAllShort(t *testing.T) {
 			if e != api.OK || at != 0 || !same(tree.Sorted(v), told(t, s)) || tree.Check(v) != api.OK {
 				t.Fatalf("Parse(%q): %v, %d, %d", s, v, at, e)
 			}
+			rounds(t, v)
 		case e != api.ErrJson || at != len(s) || !same(v, null):
 			t.Fatalf("Parse(%q), which breaks off: %v, %d, %d", s, v, at, e)
 		}
@@ -180,6 +181,7 @@ func hold(t *testing.T, s string) {
 		if at != 0 || !json.Valid([]byte(s)) || !same(tree.Sorted(v), told(t, s)) || tree.Check(v) != api.OK {
 			t.Fatalf("Parse(%q): %v, %d", s, v, at)
 		}
+		rounds(t, v)
 		return
 	case api.ErrJson:
 		if json.Valid([]byte(s)) {

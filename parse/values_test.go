@@ -58,6 +58,7 @@ func takes(t *testing.T, s string, want api.Value) {
 	if e := tree.Check(v); e != api.OK {
 		t.Errorf("Parse(%q) answers what may not be: %d", s, e)
 	}
+	rounds(t, v)
 	if v, at, e := parse.Parse(" \t\n\r" + s + "\r \n\t"); e != api.OK || at != 0 || !same(v, want) {
 		t.Errorf("Parse(%q), with blanks around it: %v, %d, %d", s, v, at, e)
 	}
