@@ -29,21 +29,27 @@ func exprs() map[string]func(part) api.Expr {
 		},
 		"GetAtt": func(p part) api.Expr {
 			l := p.row(2, 2, api.ErrShape)
-			return api.Expr{Kind: api.ExAtt, Name: l[0].text(runes.Name, api.ErrShape), Attr: l[1].text(sub.Attr, api.ErrShape)}
+			return api.Expr{Kind: api.ExAtt, Name: p.own(l[0], runes.Name), Attr: p.own(l[1], sub.Attr)}
 		},
 		"Sub": part.holes,
 		"If": func(p part) api.Expr {
 			l := p.row(3, 3, api.ErrShape)
-			return api.Expr{Kind: api.ExIf, Name: l[0].text(runes.Name, api.ErrShape), L: each(l[1:], part.expr)}
+			return api.Expr{Kind: api.ExIf, Name: p.own(l[0], runes.Name), L: each(l[1:], part.expr)}
 		},
 		"Join": func(p part) api.Expr {
 			l := p.row(2, 2, api.ErrShape)
-			return api.Expr{Kind: api.ExJoin, Text: l[0].text(print.Word, api.ErrShape), L: each(l[1:], part.expr)}
+			return api.Expr{Kind: api.ExJoin, Text: p.own(l[0], print.Word), L: each(l[1:], part.expr)}
 		},
 		"Select": func(p part) api.Expr {
 			return api.Expr{Kind: api.ExSelect, L: each(p.row(2, 2, api.ErrShape), part.expr)}
 		},
 	}
+}
+
+// own answers the text x of the list p, which must be such as may says. It is no expression, with a place of its own, but something that the list's key asks for: its fault is the key's, and told at the list.
+func (p part) own(x part, may func(string) bool) string {
+	x.at = p.at
+	return x.text(may, api.ErrShape)
 }
 
 // holes reads a text with holes.

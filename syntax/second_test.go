@@ -99,11 +99,11 @@ func wrongExpr(v api.Value, at string) []wrong {
 	case "GetAtt":
 		attr := x.List[1]
 		ok := attr.Kind == api.Text && (name.MatchString(attr.Text) || len(attr.Text) > 8 && attr.Text[:8] == "Outputs." && name.MatchString(attr.Text[8:]))
-		return append(unless(isName(x.List[0]), at+"/0", api.ErrShape), unless(ok, at+"/1", api.ErrShape)...)
+		return unless(isName(x.List[0]) && ok, at, api.ErrShape)
 	case "If":
-		return append(unless(isName(x.List[0]), at+"/0", api.ErrShape), inOrder(x, at, 1, wrongExpr)...)
+		return append(unless(isName(x.List[0]), at, api.ErrShape), inOrder(x, at, 1, wrongExpr)...)
 	case "Join":
-		return append(unless(isWord(x.List[0]), at+"/0", api.ErrShape), inOrder(x, at, 1, wrongExpr)...)
+		return append(unless(isWord(x.List[0]), at, api.ErrShape), inOrder(x, at, 1, wrongExpr)...)
 	case "Select":
 		return inOrder(x, at, 0, wrongExpr)
 	}
