@@ -2,6 +2,7 @@ package store
 
 import (
 	"hoarding/api"
+	"hoarding/copies"
 	"hoarding/schema"
 )
 
@@ -36,7 +37,7 @@ func Update(s Store, phys string, props []api.Given) (Store, api.Errno) {
 		return Store{}, api.ErrProp
 	}
 	l := copiedThings(s.L)
-	l[at].Props = copiedProps(props)
+	l[at].Props = copies.Givens(props)
 	return Store{L: l, Made: s.Made}, api.OK
 }
 
