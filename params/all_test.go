@@ -46,7 +46,7 @@ func wantMay(p api.Param, g api.Given) bool {
 		return false
 	}
 	if g.Unknown {
-		return !p.Number && len(p.Allowed) == 0
+		return same(g.V, api.Value{}) && !p.Number && len(p.Allowed) == 0
 	}
 	if !wantKind(g.V, p.Number) {
 		return false
@@ -126,7 +126,7 @@ func allParams() (out rowOfParams) {
 
 // P14.1: all parameters of a few choices, with all values of a few, held against the second reading.
 func TestAllMay(t *testing.T) {
-	var values givens
+	values := givens{unknown("x")}
 	for _, v := range slices.Concat(words(), numbers(), others()[:20]) {
 		values = append(values, given("x", v), api.Given{Unknown: true, V: v})
 	}
@@ -149,7 +149,7 @@ func TestAllMay(t *testing.T) {
 			good++
 		}
 	}
-	if good < 100 || fit < 1000 {
+	if good < 100 || fit < 500 {
 		t.Errorf("%d parameters may be, %d values fit", good, fit)
 	}
 }
@@ -191,7 +191,7 @@ func rowsOfParams() (out []rowOfParams) {
 func rowsOfGivens() (out []givens) {
 	var choices []givens
 	for _, name := range []string{"A", "B", "BB", "C"} {
-		choices = append(choices, givens{given(name, a("a")), given(name, n(1)), unknown(name)})
+		choices = append(choices, givens{given(name, a("a")), given(name, n(1)), unknown(name), {Name: name, Unknown: true, V: a("a")}})
 	}
 	for i, l := range allRows(choices...) {
 		out = append(out, l)

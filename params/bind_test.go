@@ -71,9 +71,14 @@ func TestBindUnknown(t *testing.T) {
 	refuses(t, three(), givens{unknown("A"), unknown("B"), unknown("C")}, api.ErrParam, "B")
 	refuses(t, rowOfParams{number("P")}, givens{unknown("P")}, api.ErrParam, "P")
 	refuses(t, rowOfParams{or(text("P", "a"), a("a"))}, givens{unknown("P")}, api.ErrParam, "P")
-	// What stands beside an unknown one is told as it is given.
-	beside := api.Given{Name: "P", Unknown: true, V: list(a("x"), api.Value{Kind: 9})}
-	binds(t, rowOfParams{text("P")}, givens{beside}, beside)
+	// One that has a value beside it is nothing's, and is not let be for the default.
+	for _, v := range []api.Value{a("a"), n(1), {Bool: true}, {Text: "a"}, list(a("x"), api.Value{Kind: 9})} {
+		beside := api.Given{Name: "P", Unknown: true, V: v}
+		refuses(t, rowOfParams{text("P")}, givens{beside}, api.ErrParam, "P")
+		refuses(t, rowOfParams{or(text("P"), a("a"))}, givens{beside}, api.ErrParam, "P")
+		refuses(t, rowOfParams{text("O"), text("P")}, givens{unknown("O"), beside}, api.ErrParam, "P")
+		refuses(t, rowOfParams{text("O"), text("P")}, givens{given("O", n(1)), beside}, api.ErrParam, "O")
+	}
 }
 
 // P14.2: Check's errors, ahead of all that is wrong with the values.

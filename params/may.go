@@ -26,9 +26,14 @@ func mayAllow(p api.Param) bool {
 // mayDefault tells whether the parameter's default may be, or is zero, if it has none.
 func mayDefault(p api.Param) bool {
 	if !p.Has {
-		return Same([]api.Given{{V: p.Default}}, []api.Given{{}})
+		return zero(p.Default)
 	}
 	return ofKind(p.Default, p.Number) && allowed(p, p.Default)
+}
+
+// zero tells whether v is zero in all its fields.
+func zero(v api.Value) bool {
+	return Same([]api.Given{{V: v}}, []api.Given{{}})
 }
 
 // allowed tells whether the parameter allows v.

@@ -63,17 +63,25 @@ func TestMayAllowed(t *testing.T) {
 	}
 }
 
-// P14.1: what is unknown may be a text's, where nothing is allowed alone; what stands beside it counts for nothing.
+// P14.1: what is unknown may be a text's, where nothing is allowed alone; and nothing's, if a value stands beside it.
 func TestMayUnknown(t *testing.T) {
 	none := text("P")
 	none.Allowed = []api.Value{}
-	for _, v := range slices.Concat([]api.Value{{}}, words(), numbers(), others()) {
-		g := api.Given{Unknown: true, V: v}
-		fits(t, text("P"), g, true)
-		fits(t, none, g, true)
-		fits(t, or(text("P"), a("a")), g, true)
-		for _, p := range []api.Param{text("P", "a"), or(text("P", "a", "b"), a("a")), number("P"), or(number("P"), n(1)), number("P", 1), or(number("P", 1), n(1))} {
+	open := []api.Param{text("P"), none, or(text("P"), a("a"))}
+	closed := []api.Param{text("P", "a"), or(text("P", "a", "b"), a("a")), number("P"), or(number("P"), n(1)), number("P", 1), or(number("P", 1), n(1))}
+	alone := givens{unknown(""), {Unknown: true, V: api.Value{List: []api.Value{}, Keys: []string{}}}}
+	for _, g := range alone {
+		for _, p := range open {
+			fits(t, p, g, true)
+		}
+		for _, p := range closed {
 			fits(t, p, g, false)
+		}
+	}
+	beside := append(others(), api.Value{List: []api.Value{{}}}, api.Value{Keys: []string{""}}, api.Value{List: endless().List})
+	for _, v := range slices.Concat(words(), numbers(), beside[1:]) {
+		for _, p := range slices.Concat(open, closed) {
+			fits(t, p, api.Given{Unknown: true, V: v}, false)
 		}
 	}
 }
@@ -99,6 +107,7 @@ func TestMayWrong(t *testing.T) {
 			fits(t, p, given("", v), false)
 			fits(t, p, api.Given{Unknown: true, V: v}, false)
 		}
+		fits(t, p, unknown(""), false)
 		if len(p.Allowed) > 0 {
 			fits(t, p, given("", p.Allowed[0]), false)
 		}
